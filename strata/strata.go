@@ -34,39 +34,10 @@ type Options struct {
 	Bloom   int  // bits a key of the table's filter, at most 16; 0 or below: no filter
 }
 
-// Table is an open table. Make it by Open.
-type Table struct {
-	text string
-}
-
 // Store keeps pairs in files. Make it by Start.
 type Store struct {
 	f *files.Files
 }
-
-// Build makes a table (P5).
-func Build(o Options, list []Entry) (string, Errno, int) { return "", 0, 0 }
-
-// Open opens a table (P5 to P7).
-func Open(table string) (*Table, Errno) { return nil, 0 }
-
-// Get answers the entry of a key (P6, P7).
-func (t *Table) Get(key string) (Entry, Errno) { return Entry{}, 0 }
-
-// Gather looks many keys up at the same time (P8).
-func (t *Table) Gather(keys []string) ([]Entry, []Errno) { return nil, nil }
-
-// List answers the entries from lo to hi (P6, P7).
-func (t *Table) List(lo string, hi string) ([]Entry, Errno) { return nil, 0 }
-
-// Each goes through the entries (P6, P7).
-func (t *Table) Each() func(yield func(Entry) bool) { return func(yield func(Entry) bool) {} }
-
-// Blocks is how many blocks there are (P6).
-func (t *Table) Blocks() int { return 0 }
-
-// Unpacked is how many blocks were unpacked (P9).
-func (t *Table) Unpacked() int { return 0 }
 
 // Start starts a store over files (P10, P12 to P14).
 func Start(f *files.Files, o Options) (*Store, Errno) { return nil, 0 }
