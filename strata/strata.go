@@ -1,8 +1,6 @@
 // Package strata: sorted tables, a log, and a store that outlives a loss of power: see DOC.md.
 package strata
 
-import "strata/files"
-
 // Errno is what a call answers: OK or the reason for a refusal.
 type Errno int
 
@@ -33,29 +31,3 @@ type Options struct {
 	Squeeze bool // blocks are squeezed where that makes them shorter
 	Bloom   int  // bits a key of the table's filter, at most 16; 0 or below: no filter
 }
-
-// Store keeps pairs in files. Make it by Start.
-type Store struct {
-	f *files.Files
-}
-
-// Start starts a store over files (P10, P12 to P14).
-func Start(f *files.Files, o Options) (*Store, Errno) { return nil, 0 }
-
-// Put lays a pair (P11).
-func (s *Store) Put(key string, value []byte) Errno { return 0 }
-
-// Del takes a pair away (P11).
-func (s *Store) Del(key string) Errno { return 0 }
-
-// Get answers a key's value (P11).
-func (s *Store) Get(key string) ([]byte, Errno) { return nil, 0 }
-
-// Scan answers the pairs from lo to hi (P11).
-func (s *Store) Scan(lo string, hi string) ([]Entry, Errno) { return nil, 0 }
-
-// Sync lets all updates stand (P11, P13).
-func (s *Store) Sync() Errno { return 0 }
-
-// Flush lays what is in memory into a table (P11, P13).
-func (s *Store) Flush() Errno { return 0 }
